@@ -79,7 +79,7 @@ func wantNone(t *testing.T, l line.Line, right bool) {
 }
 
 var (
-	lineForm  = regexp.MustCompile(`^` + wordForm(", ") + `((?:,` + wordForm("=") + `=` + wordForm(", ") + `)*) value=` + wordForm(" ") + ` ` + wordForm("") + `$`)
+	lineForm  = regexp.MustCompile(`^` + wordForm(", ") + `((?:,` + wordForm("=") + `=` + wordForm(", ") + `)*) value=` + emptyOr(wordForm(" ")) + ` ` + emptyOr(wordForm("")) + `$`)
 	labelForm = regexp.MustCompile(`,` + wordForm("=") + `=` + wordForm(", "))
 	unescape  = strings.NewReplacer(`\,`, `,`, `\=`, `=`, `\ `, ` `, `\\`, `\`)
 )
@@ -88,6 +88,10 @@ var (
 func wordForm(stops string) string {
 	return `((?:[^\x00-\x1f\x7f\\` + stops + `]|\\[,= \\])+)`
 }
+
+// emptyOr is the form of a word that may be empty, as the number and the time
+// may be ahead of being read.
+func emptyOr(form string) string { return strings.TrimSuffix(form, "+)") + "*)" }
 
 // slowParse is Parse by the words of the document.
 func slowParse(s string) (line.Line, api.Errno) {
@@ -416,9 +420,12 @@ func TestParseNumbers(t *testing.T) {
 		"m value=1 -1": api.ErrRange, "m value=1 -5": api.ErrRange, "m value=1 -9223372036854775808": api.ErrRange, "m value=1 -0000000000000000001": api.ErrRange,
 		// The number's error is told ahead of the time's.
 		"m value=x -5": api.ErrForm, "m value=x 9223372036854775808": api.ErrForm, "m value=x x": api.ErrForm,
-		"m value=1e99 x": api.ErrRange, "m value=1e99 +5": api.ErrRange, "m value=1e99 5 ": api.ErrRange, "m value=1e99 5.0": api.ErrRange, "m value=1e99 " + tooLong: api.ErrRange, "m value=1e99 -5": api.ErrRange,
-		// But a line of no form is told ahead of both.
-		"m value=1e99": api.ErrForm, "m value=1e99 ": api.ErrForm, "m value=1e99 5\x00": api.ErrForm, "m value=1e99 \\x": api.ErrForm, "m v=1e99 5": api.ErrForm, " value=1e99 -5": api.ErrForm, over + " value=1e99 5": api.ErrForm,
+		"m value=1e99 x": api.ErrRange, "m value=1e99 +5": api.ErrRange, "m value=1e99 5 ": api.ErrRange, "m value=1e99 5.0": api.ErrRange, "m value=1e99 -": api.ErrRange, "m value=1e99 " + tooLong: api.ErrRange, "m value=1e99 -5": api.ErrRange,
+		// Of no number, and of no time, too, it is the reading that tells.
+		"m value= ": api.ErrForm, "m value= 5": api.ErrForm, "m value= -5": api.ErrForm, "m value= 9223372036854775808": api.ErrForm, "m value=1 ": api.ErrForm, "m value=x ": api.ErrForm,
+		"m value=1e99 ": api.ErrRange, "m value=0.0000001 ": api.ErrRange, "m,a=b value=-1e30 ": api.ErrRange,
+		// But what has not the words of a line is that ahead of both.
+		"m value=1e99": api.ErrForm, "m,a=b value=-1e30": api.ErrForm, "m value=1e99 \x01": api.ErrForm, "m value=1e99 \\": api.ErrForm, "m,=b value=1e99 ": api.ErrForm, "m value=1e99 5\x00": api.ErrForm, "m value=1e99 \\x": api.ErrForm, "m v=1e99 5": api.ErrForm, " value=1e99 -5": api.ErrForm, over + " value=1e99 5": api.ErrForm,
 	} {
 		wantError(t, s, want)
 	}
