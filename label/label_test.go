@@ -435,6 +435,7 @@ func TestSplitNone(t *testing.T) {
 		"\x01m\x11", "\x01m\xff", "\xff", "\xff\xff\xff\xff", "\x40" + full[1:] + "\x00", "\x41" + over + "\x00",
 		"\x01\n\x00", "\x01\x7f\x00", "\x01m\x01\x01\x1f\x01b", "\x01m\x01\x01a\x01\x7f",
 		strings.Repeat("\x00", 1<<20), strings.Repeat("\xff", 1<<20), strings.Repeat("\x01", 4096), "m,a=b",
+		"zz", "\x02m", "\x05ab", "\x7fm\x00", "\x01m\x01\x02a", "\x01m\x01\x40a\x01b", "\xff\xff", // more bytes told of than there are
 	} {
 		wantNone(t, s)
 	}
